@@ -465,20 +465,25 @@ func TestColumnsOfEveryShape(t *testing.T) {
 	checkCol(t, impl.Col{}, "")
 }
 
+// numberedTable returns a table with so many columns and rules, and their texts.
+func numberedTable(cols int, rules int) (s impl.Stmt, parts []string) {
+	s = impl.Stmt{Kind: impl.StTable, Name: "t"}
+	for _, name := range numbered(cols) {
+		s.Cols = append(s.Cols, impl.Col{Name: name})
+		parts = append(parts, name+" int")
+	}
+	for _, name := range numbered(rules) {
+		s.Rules = append(s.Rules, key(impl.RuUnique, name, "a"))
+		parts = append(parts, "constraint "+name+" unique (a)")
+	}
+	return s, parts
+}
+
 // The number of columns and rules together has no limit of its own.
 func TestNumbersOfColumnsAndRules(t *testing.T) {
 	for cols := range 16 {
 		for rules := range 12 {
-			s := impl.Stmt{Kind: impl.StTable, Name: "t"}
-			var parts []string
-			for _, name := range numbered(cols) {
-				s.Cols = append(s.Cols, impl.Col{Name: name})
-				parts = append(parts, name+" int")
-			}
-			for _, name := range numbered(rules) {
-				s.Rules = append(s.Rules, key(impl.RuUnique, name, "a"))
-				parts = append(parts, "constraint "+name+" unique (a)")
-			}
+			s, parts := numberedTable(cols, rules)
 			want := ""
 			if cols <= 12 && rules <= 8 {
 				want = "create table t (" + strings.Join(parts, ", ") + ")"
