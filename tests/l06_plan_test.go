@@ -1927,14 +1927,19 @@ func TestPlanArgumentsAreUnchanged(t *testing.T) {
 	}
 }
 
-func TestLargeInvalidPlans(t *testing.T) {
+// endlessExprs has an expression that contains itself, one with more nodes than can be counted, and a deep one.
+func endlessExprs() []impl.Expr {
 	within := []impl.Expr{{Kind: impl.EpNot}}
 	within[0].Kids = within
 	doubled := op(impl.EpTrue)
 	for range 80 {
 		doubled = op(impl.EpAnd, doubled, doubled)
 	}
-	for _, e := range []impl.Expr{within[0], doubled, chain(impl.EpNot, 1000000, op(impl.EpTrue))} {
+	return []impl.Expr{within[0], doubled, chain(impl.EpNot, 1000000, op(impl.EpTrue))}
+}
+
+func TestLargeInvalidPlans(t *testing.T) {
+	for _, e := range endlessExprs() {
 		checkPlan(t, edited(func(p *impl.Plan) { p.Tables[0].Cols[3].Default[0] = e }), false)
 		checkPlan(t, edited(func(p *impl.Plan) { p.Tables[0].Rules[0].Expr[0] = e }), false)
 		checkPlan(t, edited(func(p *impl.Plan) { p.Views[0].Where[0] = e }), false)

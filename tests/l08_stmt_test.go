@@ -1413,14 +1413,8 @@ func refusedRule(t *testing.T, r impl.Rule, what ...any) {
 
 // Every call ends, also for expressions that contain themselves, wherever they stand.
 func TestEndlessExpressionsInStatements(t *testing.T) {
-	within := []impl.Expr{{Kind: impl.EpNot}}
-	within[0].Kids = within
-	doubled := op(impl.EpTrue)
-	for range 80 {
-		doubled = op(impl.EpAnd, doubled, doubled)
-	}
 	wide := op(impl.EpAnd, make([]impl.Expr, 1000000)...)
-	for i, e := range []impl.Expr{within[0], doubled, wide, chain(impl.EpNot, 1000000, op(impl.EpTrue))} {
+	for i, e := range append(endlessExprs(), wide) {
 		for j, x := range exprPlaces {
 			refused(t, x.put(e), "expression ", i, " at place ", j)
 			refused(t, x.put(op(impl.EpNot, e)), "expression ", i, " within another at place ", j)
